@@ -285,7 +285,7 @@ func TestCheckConditions(t *testing.T) {
 func TestCheckFirst(t *testing.T) {
 	for _, v := range violations() {
 		for _, w := range violations() {
-			// Before changes of the lists as a whole, those of single elements would be lost or have no place.
+			// A change of a whole list can leave the other change nothing that it could apply to.
 			if v.condition == 1 || w.condition == 1 {
 				continue
 			}
